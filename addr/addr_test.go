@@ -8,6 +8,7 @@ import (
 
 	"mailroom/addr"
 	"mailroom/api"
+	"mailroom/every"
 	"mailroom/name"
 )
 
@@ -32,21 +33,6 @@ func plainly(s string) (local, domain string, is bool) {
 
 func isLocal(s string) bool {
 	return len(s) >= 1 && len(s) <= 64 && (atomsOnly.MatchString(s) || quotedOnly.MatchString(s))
-}
-
-// all tells each text of up to n of these pieces.
-func all(n int, pieces ...string) []string {
-	out := []string{""}
-	for from := 0; n > 0; n-- {
-		to := len(out)
-		for _, s := range out[from:to] {
-			for _, p := range pieces {
-				out = append(out, s+p)
-			}
-		}
-		from = to
-	}
-	return out
 }
 
 func long(letter byte, n int) string {
@@ -134,7 +120,7 @@ func TestExamplesOfTheChapter(t *testing.T) {
 // P4.1, and the words: a local part.
 func TestAllShortTexts(t *testing.T) {
 	found := 0
-	for _, s := range all(6, "a", ".", "@", `"`, `\`, " ", "1") {
+	for _, s := range every.Text(6, "a", ".", "@", `"`, `\`, " ", "1") {
 		l, d, yes := plainly(s)
 		if !yes {
 			nones(t, s)
@@ -150,7 +136,7 @@ func TestAllShortTexts(t *testing.T) {
 
 func TestAllShortLocals(t *testing.T) {
 	quoted := 0
-	for _, l := range all(7, "a", ".", "@", `"`, `\`) {
+	for _, l := range every.Text(7, "a", ".", "@", `"`, `\`) {
 		if !isLocal(l) {
 			noLocals(t, l)
 			continue
@@ -325,7 +311,7 @@ func some() []string {
 
 // P4.4.
 func TestBack(t *testing.T) {
-	for _, s := range append(some(), all(6, "a", ".", "@", `"`, `\`, "B")...) {
+	for _, s := range append(some(), every.Text(6, "a", ".", "@", `"`, `\`, "B")...) {
 		l, d, e := addr.Parse(s)
 		if e != api.OK {
 			continue
@@ -343,7 +329,7 @@ func TestBack(t *testing.T) {
 }
 
 func TestWhatIsShownIsParsed(t *testing.T) {
-	parts := all(3, "a", "B", ".", "@", `"`, `\`)
+	parts := every.Text(3, "a", "B", ".", "@", `"`, `\`)
 	shown := 0
 	for _, l := range parts {
 		for _, d := range parts {

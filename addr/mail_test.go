@@ -9,6 +9,7 @@ import (
 
 	"mailroom/addr"
 	"mailroom/api"
+	"mailroom/every"
 )
 
 // to makes recipients of addresses.
@@ -106,7 +107,7 @@ func TestMailText(t *testing.T) {
 		m.Text = s
 		answers(t, m, api.ErrForm)
 	}
-	for _, s := range all(7, "a", "\r", "\n", "\r\n") {
+	for _, s := range every.Text(7, "a", "\r", "\n", "\r\n") {
 		m.Text = s
 		if want := textOnly.MatchString(s); (addr.Mail(m, 4, 1024) == api.OK) != want {
 			t.Fatalf("Mail, of the text %q: %v", s, !want)

@@ -11,6 +11,7 @@ import (
 	"mailroom/api"
 	"mailroom/caps"
 	"mailroom/cmd"
+	"mailroom/every"
 )
 
 // offers are all that a peer can, of what a command hangs on.
@@ -197,7 +198,7 @@ func TestBackAndThere(t *testing.T) {
 		}
 	}
 	// Just these lines are parsed that differ from what is shown in letters of the word and of the names.
-	for _, line := range append(all(5, "mail from:<>", " ", "a", "B=c", "=", ">"), all(4, "Rcpt To:<a@b.c>", " ", "Ab", "=C")...) {
+	for _, line := range append(every.Text(5, "mail from:<>", " ", "a", "B=c", "=", ">"), every.Text(4, "Rcpt To:<a@b.c>", " ", "Ab", "=C")...) {
 		c, e := cmd.Parse(line)
 		if e != api.OK {
 			continue

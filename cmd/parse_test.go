@@ -7,6 +7,7 @@ import (
 
 	"mailroom/api"
 	"mailroom/cmd"
+	"mailroom/every"
 )
 
 // reads wants that a line is parsed as that command, whose line it is but for great and small letters.
@@ -48,21 +49,6 @@ func alike(t *testing.T, line string) {
 	if want, f := plainly(line); !equal(c, want) || e != f {
 		t.Errorf("Parse(%q): %+v, %v; by the chapter's words %+v, %v", line, c, e, want, f)
 	}
-}
-
-// all tells each text of up to n of these pieces.
-func all(n int, pieces ...string) []string {
-	out := []string{""}
-	for from := 0; n > 0; n-- {
-		to := len(out)
-		for _, s := range out[from:to] {
-			for _, p := range pieces {
-				out = append(out, s+p)
-			}
-		}
-		from = to
-	}
-	return out
 }
 
 // P7.1: the chapter's examples of lines.
@@ -221,21 +207,21 @@ func TestNoParams(t *testing.T) {
 // P7.1: all short rows of what lines are put together of.
 func TestShortRows(t *testing.T) {
 	for _, head := range []string{"MAIL FROM:", "rcpt to:"} {
-		for _, s := range all(5, "<", ">", "a@b.c", `"`, " ", "=", "A", "@b", `\`) {
+		for _, s := range every.Text(5, "<", ">", "a@b.c", `"`, " ", "=", "A", "@b", `\`) {
 			alike(t, head+s)
 		}
-		for _, s := range all(6, " ", "=", "A", "b", "1", ">") {
+		for _, s := range every.Text(6, " ", "=", "A", "b", "1", ">") {
 			alike(t, head+"<a@b.c>"+s)
 		}
 	}
-	for _, s := range all(5, "EHLO", " ", "a", ".", "-", "1", "DATA") {
+	for _, s := range every.Text(5, "EHLO", " ", "a", ".", "-", "1", "DATA") {
 		alike(t, s)
 	}
 }
 
 // P7.6 on lines: with quotes, blanks and angle brackets in whatever row no line has two paths that could be its own.
 func TestOnePath(t *testing.T) {
-	for _, s := range all(6, `"`, ">", " A", "@b", "<", `\`) {
+	for _, s := range every.Text(6, `"`, ">", " A", "@b", "<", `\`) {
 		alike(t, `MAIL FROM:<"a`+s+`"@b.c>`)
 		alike(t, `MAIL FROM:<"a`+s+`"@b.c> A=1`)
 	}

@@ -7,6 +7,7 @@ import (
 	"unicode"
 
 	"mailroom/api"
+	"mailroom/every"
 	"mailroom/head"
 	"mailroom/line"
 )
@@ -60,7 +61,7 @@ func foldings(s string) []string {
 // behinds are an empty line and whatever body, as they may stand behind a text's head.
 func behinds() []string {
 	out := []string{"", "\r\n"}
-	for _, s := range append(all(3, "A: b", " ", "\r\n", "\r", "\n"), "TLS-Required: No\r\n", "Received: x\r\n", " x\r\n", "x\r\n\r\nA: b\r\n", "\x00\xff") {
+	for _, s := range append(every.Text(3, "A: b", " ", "\r\n", "\r", "\n"), "TLS-Required: No\r\n", "Received: x\r\n", " x\r\n", "x\r\n\r\nA: b\r\n", "\x00\xff") {
 		out = append(out, "\r\n"+s)
 	}
 	return out
@@ -99,7 +100,7 @@ func TestFolded(t *testing.T) {
 
 // P9.4: what the body has is not looked at, but by Body.
 func TestWhateverStandsBehind(t *testing.T) {
-	for _, ahead := range append(all(4, "A: b", " ", "\r\n", "x", ":"), "TLS-Required: No\r\n", "Received: x\r\nReceived: y\r\n", "A: b\r\n c\r\n") {
+	for _, ahead := range append(every.Text(4, "A: b", " ", "\r\n", "x", ":"), "TLS-Required: No\r\n", "Received: x\r\nReceived: y\r\n", "A: b\r\n c\r\n") {
 		if ahead != "" && !strings.HasSuffix(ahead, "\r\n") || strings.Contains("\r\n"+ahead, "\r\n\r\n") {
 			continue // these are no lines of a head
 		}

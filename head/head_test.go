@@ -8,6 +8,7 @@ import (
 	"unsafe"
 
 	"mailroom/api"
+	"mailroom/every"
 	"mailroom/head"
 )
 
@@ -27,21 +28,6 @@ func plainly(text string) (fields []head.Field, body string) {
 	}
 	_, body, _ = strings.Cut("\r\n"+text, "\r\n\r\n")
 	return fields, body
-}
-
-// all tells each text of up to n of these pieces.
-func all(n int, pieces ...string) []string {
-	out := []string{""}
-	for from := 0; n > 0; n-- {
-		to := len(out)
-		for _, s := range out[from:to] {
-			for _, p := range pieces {
-				out = append(out, s+p)
-			}
-		}
-		from = to
-	}
-	return out
 }
 
 // row is fields: names, each with its value behind it.
@@ -287,9 +273,9 @@ func TestLoneCRsAndLFs(t *testing.T) {
 // P9.1, P9.2: all short texts.
 func TestAllShortTexts(t *testing.T) {
 	some := 0
-	texts := all(7, "a", ":", " ", "\r\n", "\r")
-	texts = append(texts, all(7, "A: b", "A", "\t", "\r\n", "\n")...)
-	for _, s := range append(texts, all(6, "Received:", "TLS-Required: ", "no", "N", "O", "\r\n", "\r\n ")...) {
+	texts := every.Text(7, "a", ":", " ", "\r\n", "\r")
+	texts = append(texts, every.Text(7, "A: b", "A", "\t", "\r\n", "\n")...)
+	for _, s := range append(texts, every.Text(6, "Received:", "TLS-Required: ", "no", "N", "O", "\r\n", "\r\n ")...) {
 		agrees(t, s)
 		some += len(head.Fields(s))
 		if t.Failed() {

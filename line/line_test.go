@@ -8,6 +8,7 @@ import (
 	"unsafe"
 
 	"mailroom/api"
+	"mailroom/every"
 	"mailroom/line"
 )
 
@@ -33,21 +34,6 @@ func is(t *testing.T, f *line.Framer, feed string, lines []string, e api.Errno, 
 	if dead := e == api.ErrTooLarge || e == api.ErrState; f.Dead() != dead {
 		t.Errorf("Feed(%q): Dead %v; want %v", feed, f.Dead(), dead)
 	}
-}
-
-// all tells each text of up to n of these pieces.
-func all(n int, pieces ...string) []string {
-	out := []string{""}
-	for from := 0; n > 0; n-- {
-		to := len(out)
-		for _, s := range out[from:to] {
-			for _, p := range pieces {
-				out = append(out, s+p)
-			}
-		}
-		from = to
-	}
-	return out
 }
 
 // plainly is what a framer tells of s, reckoned byte by byte from the chapter's words alone.
@@ -263,7 +249,7 @@ func errnoOf(was, is bool) api.Errno {
 
 // P1.3: at once, in two parts, and byte by byte.
 func TestHoweverItComes(t *testing.T) {
-	for _, s := range all(7, "a", "\r", "\n") {
+	for _, s := range every.Text(7, "a", "\r", "\n") {
 		for most := 2; most <= 6; most++ {
 			lines, left, dead := plainly(s, most)
 			ways := [][]string{{s}, strings.Split(s, "")}
@@ -294,7 +280,7 @@ func TestKilledAtTheSameByte(t *testing.T) {
 
 // P1.4.
 func TestThereAndBack(t *testing.T) {
-	for _, s := range all(8, "a", "\r", "\n") {
+	for _, s := range every.Text(8, "a", "\r", "\n") {
 		lines, rest := line.Cut(s)
 		if back := line.Join(lines) + rest; back != s {
 			t.Fatalf("%q: joined %q", s, back)
@@ -303,7 +289,7 @@ func TestThereAndBack(t *testing.T) {
 			t.Fatalf("%q: a line is left in the rest %q", s, rest)
 		}
 	}
-	may := slices.DeleteFunc(all(3, "a", "\r", "\n"), func(l string) bool {
+	may := slices.DeleteFunc(every.Text(3, "a", "\r", "\n"), func(l string) bool {
 		return strings.Contains(l, "\r\n") || strings.HasSuffix(l, "\r")
 	})
 	for _, a := range may {
@@ -341,7 +327,7 @@ func TestAsLongAsMayBe(t *testing.T) {
 
 // P1.6.
 func TestThrownAway(t *testing.T) {
-	texts := all(4, "a", "\r", "\n")
+	texts := every.Text(4, "a", "\r", "\n")
 	for _, ahead := range texts {
 		f := framer(t, 3)
 		f.Feed(ahead)

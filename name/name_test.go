@@ -9,6 +9,7 @@ import (
 	"unsafe"
 
 	"mailroom/api"
+	"mailroom/every"
 	"mailroom/name"
 )
 
@@ -78,24 +79,9 @@ func unfolded(t *testing.T, texts ...string) {
 	}
 }
 
-// all tells each text of up to n of these pieces.
-func all(n int, pieces ...string) []string {
-	out := []string{""}
-	for from := 0; n > 0; n-- {
-		to := len(out)
-		for _, s := range out[from:to] {
-			for _, p := range pieces {
-				out = append(out, s+p)
-			}
-		}
-		from = to
-	}
-	return out
-}
-
 // few are all short texts; they have labels of each kind, and dots and - wherever they may stand.
 func few() []string {
-	return all(6, "a", "1", "-", ".")
+	return every.Text(6, "a", "1", "-", ".")
 }
 
 var (
@@ -337,9 +323,9 @@ func TestMatch(t *testing.T) {
 // P3.2: whatever two texts are held against each other, a match is what the words say.
 func TestMatchOfAllShortTexts(t *testing.T) {
 	matched := 0
-	for _, p := range all(5, "a", "1", "*", ".") {
+	for _, p := range every.Text(5, "a", "1", "*", ".") {
 		n, starred := strings.CutPrefix(p, "*.")
-		for _, s := range all(5, "a", "1", "*", ".") {
+		for _, s := range every.Text(5, "a", "1", "*", ".") {
 			want := plainly(s) && plainly(n) && s == n
 			if starred {
 				i := strings.Index(s, ".")
@@ -379,7 +365,7 @@ func TestCompare(t *testing.T) {
 
 // P3.2: Compare is reckoned byte by byte.
 func TestCompareOfAllShortTexts(t *testing.T) {
-	texts := all(4, "a", "-", ".", "\x80", "B")
+	texts := every.Text(4, "a", "-", ".", "\x80", "B")
 	for _, a := range texts {
 		for _, b := range texts {
 			if got, want := name.Compare(a, b), byBytes(a, b); got != want {
@@ -456,7 +442,7 @@ func TestUnderByLength(t *testing.T) {
 // P3.3: what was folded is a name, and folded is itself.
 func TestFoldedIsFolded(t *testing.T) {
 	folded := 0
-	for _, s := range all(6, "a", "B", "1", "-", ".") {
+	for _, s := range every.Text(6, "a", "B", "1", "-", ".") {
 		n, e := name.Fold(s)
 		want := strings.ToLower(strings.TrimSuffix(s, "."))
 		if (e == api.OK) != plainly(want) {
@@ -548,7 +534,7 @@ func TestOneStar(t *testing.T) {
 
 // P3.6: of any three texts Compare is a row, and 0 just of the same.
 func TestInARow(t *testing.T) {
-	texts := append(all(2, "a", "B", ".", "-", "\xff", "\x00"), "a.b", "a.b.", "a.b.c", "A.b", "aa.b", "é", wide(), deep())
+	texts := append(every.Text(2, "a", "B", ".", "-", "\xff", "\x00"), "a.b", "a.b.", "a.b.c", "A.b", "aa.b", "é", wide(), deep())
 	for _, a := range texts {
 		for _, b := range texts {
 			ab := name.Compare(a, b)

@@ -8,6 +8,7 @@ import (
 	"unsafe"
 
 	"mailroom/api"
+	"mailroom/every"
 	"mailroom/reply"
 )
 
@@ -79,7 +80,7 @@ func TestWhatIsReadIsShown(t *testing.T) {
 			t.Fatalf("%q, read, shown: %q", lines, got)
 		}
 	}
-	for _, s := range all(3, "a", "-", " ", "2.0.0", "\t") {
+	for _, s := range every.Text(3, "a", "-", " ", "2.0.0", "\t") {
 		if got := reply.Show(made(t, "250-"+s, "250 x"+s)); !slices.Equal(got, []string{"250-" + s, "250 x" + s}) {
 			t.Fatalf("%q: %q", s, got)
 		}

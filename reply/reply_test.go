@@ -9,6 +9,7 @@ import (
 	"testing"
 
 	"mailroom/api"
+	"mailroom/every"
 	"mailroom/reply"
 )
 
@@ -35,21 +36,6 @@ func statusOf(code int, text string) string {
 		return ""
 	}
 	return m[1]
-}
-
-// all tells each text of up to n of these pieces.
-func all(n int, pieces ...string) []string {
-	out := []string{""}
-	for from := 0; n > 0; n-- {
-		to := len(out)
-		for _, s := range out[from:to] {
-			for _, p := range pieces {
-				out = append(out, s+p)
-			}
-		}
-		from = to
-	}
-	return out
 }
 
 // many is n texts, no two the same.
@@ -207,7 +193,7 @@ func TestParse(t *testing.T) {
 
 func TestParseOfShortTexts(t *testing.T) {
 	found := 0
-	for _, s := range all(6, "2", "5", "6", "0", "-", " ", "a") {
+	for _, s := range every.Text(6, "2", "5", "6", "0", "-", " ", "a") {
 		if _, _, _, may := plainly(s); may {
 			found++
 		}
@@ -468,7 +454,7 @@ func TestStatusOfAllClasses(t *testing.T) {
 
 func TestStatusOfShortTexts(t *testing.T) {
 	found := 0
-	for _, text := range all(7, "2", "0", "4", ".", " ") {
+	for _, text := range every.Text(7, "2", "0", "4", ".", " ") {
 		x := made(t, "250 "+text)
 		if x.Status != statusOf(250, text) {
 			t.Fatalf("%q: %q; want %q", text, x.Status, statusOf(250, text))

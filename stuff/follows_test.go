@@ -5,13 +5,14 @@ import (
 	"testing"
 
 	"mailroom/api"
+	"mailroom/every"
 	"mailroom/stuff"
 )
 
 // texts are all those of up to n pieces, each of which ends by CR LF, or is empty.
 func texts(n int, pieces ...string) []string {
 	out := []string{""}
-	for _, s := range all(n, pieces...) {
+	for _, s := range every.Text(n, pieces...) {
 		if strings.HasSuffix(s, "\r\n") {
 			out = append(out, s)
 		}
@@ -31,7 +32,7 @@ func sentOf(t *testing.T, text string) string {
 
 // P8.3: what was sent is the text, whatever is behind.
 func TestThereAndBack(t *testing.T) {
-	rests := append(all(3, "a", ".", "\r", "\n"), ".\r\n", ".\r\n.\r\n", ".a\r\n.\r\n", "..\r\n.\r\n", strings.Repeat("x", 5000))
+	rests := append(every.Text(3, "a", ".", "\r", "\n"), ".\r\n", ".\r\n.\r\n", ".a\r\n.\r\n", "..\r\n.\r\n", strings.Repeat("x", 5000))
 	for _, text := range texts(6, "a", ".", "\r\n", "\r", "\n") {
 		sent := sentOf(t, text)
 		for _, behind := range append(rests, sent, text) {
@@ -46,7 +47,7 @@ func TestThereAndBack(t *testing.T) {
 // P8.3: what is read, sent, and the rest behind it, is what was read.
 func TestBackAndThere(t *testing.T) {
 	read := 0
-	for _, s := range all(6, "a", ".", "\r\n", "\r", "\n", ".\r\n") {
+	for _, s := range every.Text(6, "a", ".", "\r\n", "\r", "\n", ".\r\n") {
 		text, rest, e := stuff.Unstuff(s)
 		if e != api.OK {
 			continue

@@ -6,23 +6,9 @@ import (
 	"unsafe"
 
 	"mailroom/api"
+	"mailroom/every"
 	"mailroom/stuff"
 )
-
-// all tells each text of up to n of these pieces.
-func all(n int, pieces ...string) []string {
-	out := []string{""}
-	for from := 0; n > 0; n-- {
-		to := len(out)
-		for _, s := range out[from:to] {
-			for _, p := range pieces {
-				out = append(out, s+p)
-			}
-		}
-		from = to
-	}
-	return out
-}
 
 // bytewise goes over s byte by byte: the lines with their ends, and what is behind them.
 func bytewise(s string) (lines []string, rest string) {
@@ -255,8 +241,8 @@ func TestWhole(t *testing.T) {
 
 // P8.1, P8.2: all short texts, held against a reckoning byte by byte.
 func TestAllShortTexts(t *testing.T) {
-	texts := all(8, "a", ".", "\r", "\n")
-	texts = append(texts, all(6, "a", ".", "\r\n", "\r", "\n")...)
+	texts := every.Text(8, "a", ".", "\r", "\n")
+	texts = append(texts, every.Text(6, "a", ".", "\r\n", "\r", "\n")...)
 	for _, s := range texts {
 		sent, e := stuff.Stuff(s)
 		if want, wantE := stuffed(s); sent != want || e != wantE {

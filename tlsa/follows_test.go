@@ -9,6 +9,7 @@ import (
 
 	"mailroom/api"
 	"mailroom/cert"
+	"mailroom/every"
 	"mailroom/tlsa"
 	"mailroom/trust"
 )
@@ -17,7 +18,7 @@ import (
 func TestThePeersOwn(t *testing.T) {
 	list := links(t)
 	for n := 1; n <= 2; n++ {
-		for chain := range rows(list, n) {
+		for chain := range every.Row(list, n) {
 			bytes := bytesOf(chain)
 			for _, r := range asked(list) {
 				if r.Usage != 3 {
@@ -48,7 +49,7 @@ func TestOfOthers(t *testing.T) {
 	more := [][]string{{""}, {list[1].s}, {list[9].s, list[20].s}, {"x", list[4].s}, bytesOf(certificates(t, row(3)...)), slices.Repeat([]string{list[30].s}, 5)}
 	many := 0
 	for n := 1; n <= 2; n++ {
-		for chain := range rows(list, n) {
+		for chain := range every.Row(list, n) {
 			bytes := bytesOf(chain)
 			for _, r := range records {
 				for _, h := range []string{host, "x.com"} {
@@ -79,7 +80,7 @@ func TestOfOthersLongOnes(t *testing.T) {
 	for n := 2; n < maxChain; n++ {
 		chain := certificates(t, row(n)...)
 		for _, r := range recordsOf(2, chain[n-1]) {
-			for behind := range rows(bad, maxChain-n) {
+			for behind := range every.Row(bad, maxChain-n) {
 				matches(t, r, slices.Concat(chain, behind), host, from, true)
 			}
 		}
@@ -96,7 +97,7 @@ func TestMoreRecords(t *testing.T) {
 	}
 	many := 0
 	for n := range maxTLSA + 1 {
-		for l := range rows(some, n) {
+		for l := range every.Row(some, n) {
 			any := tlsa.Any(l, bytes, host, from)
 			for i, r := range l {
 				without := slices.Delete(slices.Clone(l), i, i+1)
@@ -119,7 +120,7 @@ func TestMoreRecords(t *testing.T) {
 func TestBothWays(t *testing.T) {
 	list := links(t)
 	records := asked(list)
-	for chain := range rows(list, 2) {
+	for chain := range every.Row(list, 2) {
 		bytes := bytesOf(chain)
 		for i := range records {
 			l := append(slices.Clone(records[i:]), records[:i]...)

@@ -6,6 +6,7 @@ import (
 
 	"mailroom/api"
 	"mailroom/cert"
+	"mailroom/every"
 	"mailroom/tlsa"
 )
 
@@ -239,7 +240,7 @@ func holdsForAll(t *testing.T, list []piece, n int) {
 	t.Helper()
 	records := asked(list)
 	many := [2]int{}
-	for chain := range rows(list, n) {
+	for chain := range every.Row(list, n) {
 		bytes := bytesOf(chain)
 		for now := range 4 {
 			for _, h := range []string{host, "x.com"} {
@@ -319,7 +320,7 @@ func TestAnyOfBothUsages(t *testing.T) {
 	some := []api.TLSA{recordsOf(3, chain[0])[1], recordsOf(3, chain[1])[1], recordsOf(2, chain[0])[1], recordsOf(2, chain[2])[2], record(2, 1, 3, "x")}
 	seen := [2]int{}
 	for n := range 6 {
-		for l := range rows(some, n) {
+		for l := range every.Row(some, n) {
 			for _, now := range []int{from - 1, from} {
 				want := isMatchedByAny(l, chain, host, now)
 				if got := tlsa.Any(l, bytesOf(chain), host, now); got != want {

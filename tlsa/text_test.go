@@ -8,6 +8,7 @@ import (
 	"testing"
 
 	"mailroom/api"
+	"mailroom/every"
 	"mailroom/tlsa"
 )
 
@@ -145,7 +146,7 @@ func TestParseOfShortTexts(t *testing.T) {
 	for signs, most := range map[string]int{" 02-a": 7, " 2-": 10, " 0f": 10} {
 		many := 0
 		for n := range most + 1 {
-			for l := range rows(strings.Split(signs, ""), n) {
+			for l := range every.Row(strings.Split(signs, ""), n) {
 				s := strings.Join(l, "")
 				parsesAsWords(t, s)
 				if _, e := wanted(s); e == 0 {

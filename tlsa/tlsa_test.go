@@ -2,13 +2,13 @@ package tlsa_test
 
 import (
 	"crypto/sha256"
-	"iter"
 	"slices"
 	"strings"
 	"testing"
 
 	"mailroom/api"
 	"mailroom/cert"
+	"mailroom/every"
 	"mailroom/tlsa"
 )
 
@@ -187,34 +187,6 @@ func but(l []cert.Cert, at int, change func(c *cert.Cert)) []cert.Cert {
 	return l
 }
 
-// rows goes over all rows of so many out of some.
-func rows[T any](some []T, n int) iter.Seq[[]T] {
-	return func(yield func(l []T) bool) {
-		places := make([]int, n)
-		for {
-			var l []T
-			for _, p := range places {
-				l = append(l, some[p])
-			}
-			if !yield(l) || !next(places, len(some)) {
-				return
-			}
-		}
-	}
-}
-
-// next counts one on, in digits of which there are so many; no: all are 0 again.
-func next(digits []int, many int) bool {
-	for i := range digits {
-		digits[i]++
-		if digits[i] < many {
-			return true
-		}
-		digits[i] = 0
-	}
-	return false
-}
-
 // matches wants that a chain is matched by a record, or not, and that the words say so.
 func matches(t *testing.T, r api.TLSA, chain []piece, whose string, now int, want bool) {
 	t.Helper()
@@ -338,7 +310,7 @@ func TestUsables(t *testing.T) {
 func TestUsablesOfAllRows(t *testing.T) {
 	some := []api.TLSA{record(3, 1, 0, "a"), record(2, 0, 0, "b"), record(1, 1, 0, "a"), record(3, 0, 1, "b")}
 	for n := range 7 {
-		for l := range rows(some, n) {
+		for l := range every.Row(some, n) {
 			var want []api.TLSA
 			for i, r := range l {
 				if i < 4 && isUsable(r) {

@@ -6,6 +6,7 @@ import (
 	"testing"
 
 	"mailroom/cert"
+	"mailroom/every"
 	"mailroom/trust"
 )
 
@@ -122,7 +123,7 @@ func TestLinkedOfAllRows(t *testing.T) {
 		}
 	}
 	for n := range 5 {
-		for l := range rows(some, n) {
+		for l := range every.Row(some, n) {
 			linkedIs(t, l, areLinked(l))
 		}
 	}
@@ -208,7 +209,7 @@ func TestAnchoredOfAllRows(t *testing.T) {
 	}
 	lists := [][]string{nil, {digest(root)}, {digest("a")}, {digest(root), digest("b")}}
 	for n := range 4 {
-		for l := range rows(some, n) {
+		for l := range every.Row(some, n) {
 			for _, anchors := range lists[min(n, 1):] {
 				for now := 1; now <= 2; now++ {
 					anchoredIs(t, l, now, anchors, areAnchored(l, now, anchors))
@@ -229,7 +230,7 @@ func TestAnchoredOfLongRows(t *testing.T) {
 		{Key: "a", Signer: self, CA: true},
 	}
 	for n := 4; n <= 5; n++ {
-		for l := range rows(some, n) {
+		for l := range every.Row(some, n) {
 			for now := range 2 {
 				anchoredIs(t, l, now, []string{by}, areAnchored(l, now, []string{by}))
 			}

@@ -9,6 +9,7 @@ import (
 	"unsafe"
 
 	"mailroom/cert"
+	"mailroom/every"
 	"mailroom/trust"
 )
 
@@ -22,7 +23,7 @@ func TestMoreAnchors(t *testing.T) {
 	many := 0
 	more := []string{"", digest("a"), digest("x"), digest("y")}
 	for n := range 3 {
-		for list := range rows(links(t), n) {
+		for list := range every.Row(links(t), n) {
 			chain, _ := parted(list)
 			if !right(chain, 1, roots()) {
 				continue
@@ -47,7 +48,7 @@ func TestMoreBehind(t *testing.T) {
 	some := links(t)
 	var more [][]string
 	for n := 1; n <= 2; n++ {
-		for list := range rows(some, n) {
+		for list := range every.Row(some, n) {
 			chain, _ := parted(list)
 			more = append(more, chain)
 		}
@@ -55,7 +56,7 @@ func TestMoreBehind(t *testing.T) {
 	more = append(more, bytesOf(t, row(3)...), bytesOf(t, row(9)...), slices.Repeat([]string{some[2].s}, 3))
 	many := 0
 	for n := range 3 {
-		for list := range rows(some, n) {
+		for list := range every.Row(some, n) {
 			chain, _ := parted(list)
 			if !right(chain, 1, roots()) {
 				continue
@@ -75,7 +76,7 @@ func TestMoreBehind(t *testing.T) {
 func TestMoreBehindLongOnes(t *testing.T) {
 	bad := []cert.Cert{dated(0, 1), row(2)[1], named(), but(row(1), 0, func(c *cert.Cert) { c.Signer = digest("x") })[0]}
 	for n := 1; n < maxChain; n++ {
-		for behind := range rows(bad, maxChain-n) {
+		for behind := range every.Row(bad, maxChain-n) {
 			for m := range behind {
 				judges(t, bytesOf(t, append(row(n), behind[:m+1]...)...), host, from, roots(), trust.Right)
 			}
@@ -148,7 +149,7 @@ func TestEachLinkInAllRows(t *testing.T) {
 		}
 	}
 	many := 0
-	for l := range rows(some, 3) {
+	for l := range every.Row(some, 3) {
 		if !trust.Anchored(l, 5, roots()) || trust.Anchored(l[:2], 5, roots()) {
 			continue
 		}
@@ -194,7 +195,7 @@ func TestBetween(t *testing.T) {
 		}
 	}
 	for n := 1; n <= 2; n++ {
-		for list := range rows(dates, n) {
+		for list := range every.Row(dates, n) {
 			l := row(n)
 			for i, d := range list {
 				l[i].From, l[i].Until = d[0], d[1]
@@ -215,7 +216,7 @@ func TestBetween(t *testing.T) {
 // TestBetweenOfThree: P15.6: of three certificates of some dates, with each row of anchors.
 func TestBetweenOfThree(t *testing.T) {
 	dates := [][2]int{{0, 4}, {0, 2}, {2, 4}, {1, 3}, {2, 2}, {3, 1}}
-	for list := range rows(dates, 3) {
+	for list := range every.Row(dates, 3) {
 		l := row(3)
 		begin, end := 0, 4
 		for i, d := range list {
@@ -254,7 +255,7 @@ func TestGreatTimes(t *testing.T) {
 func TestOneStar(t *testing.T) {
 	labels := []string{"a", "b-c", "0", "xn--p1ai", "com"}
 	for n := 1; n <= 4; n++ {
-		for list := range rows(labels, n) {
+		for list := range every.Row(labels, n) {
 			behind := strings.Join(list, ".")
 			if !isName(behind) {
 				continue

@@ -6,6 +6,7 @@ import (
 	"testing"
 
 	"mailroom/cert"
+	"mailroom/every"
 	"mailroom/trust"
 )
 
@@ -134,7 +135,7 @@ func TestJudgeOfAllRows(t *testing.T) {
 	some := links(t)
 	seen := map[uint8]int{}
 	for n := range 4 {
-		for list := range rows(some, n) {
+		for list := range every.Row(some, n) {
 			chain, l := parted(list)
 			readsAs(t, chain, l)
 			for _, h := range []string{host, "x.com", "y.com"} {
@@ -157,7 +158,7 @@ func TestJudgeOfAllRows(t *testing.T) {
 func TestWhatIsRight(t *testing.T) {
 	some := links(t)
 	for n := range 4 {
-		for list := range rows(some, n) {
+		for list := range every.Row(some, n) {
 			chain, _ := parted(list)
 			for _, h := range []string{host, "x.com", "y.com"} {
 				for now := range 4 {

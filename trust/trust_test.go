@@ -2,7 +2,6 @@ package trust_test
 
 import (
 	"crypto/sha256"
-	"iter"
 	"math"
 	"regexp"
 	"slices"
@@ -10,6 +9,7 @@ import (
 	"testing"
 
 	"mailroom/cert"
+	"mailroom/every"
 	"mailroom/trust"
 )
 
@@ -168,34 +168,6 @@ func bytesOf(t *testing.T, l ...cert.Cert) []string {
 	return chain
 }
 
-// rows goes over all rows of so many out of some.
-func rows[T any](some []T, n int) iter.Seq[[]T] {
-	return func(yield func(l []T) bool) {
-		places := make([]int, n)
-		for {
-			var l []T
-			for _, p := range places {
-				l = append(l, some[p])
-			}
-			if !yield(l) || !next(places, len(some)) {
-				return
-			}
-		}
-	}
-}
-
-// next counts one on, in digits of which there are so many; no: all are 0 again.
-func next(digits []int, many int) bool {
-	for i := range digits {
-		digits[i]++
-		if digits[i] < many {
-			return true
-		}
-		digits[i] = 0
-	}
-	return false
-}
-
 // hostIs holds Host against what is wanted, and that against the words.
 func hostIs(t *testing.T, c cert.Cert, host string, want bool) {
 	t.Helper()
@@ -346,7 +318,7 @@ func TestHostOfLongNames(t *testing.T) {
 func TestHostOfShortNames(t *testing.T) {
 	var hosts []string
 	for n := range 5 {
-		for labels := range rows([]string{"a", "b"}, n) {
+		for labels := range every.Row([]string{"a", "b"}, n) {
 			hosts = append(hosts, strings.Join(labels, "."))
 		}
 	}
